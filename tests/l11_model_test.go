@@ -139,6 +139,13 @@ func wantSum(t *testing.T, l []impl.Ranking, id int, want int) {
 	}
 }
 
+func wantNoSum(t *testing.T, what string, l []impl.Ranking, id int) {
+	t.Helper()
+	if got, ok := impl.SumOf(l, id); ok || got != 0 {
+		t.Errorf("%s: SumOf %d is %d %v", what, id, got, ok)
+	}
+}
+
 // wantBestOf asks for the best k, and answers how many depths were looked at for them.
 func wantBestOf(t *testing.T, l []impl.Ranking, k int, want []impl.Scored) int {
 	t.Helper()
@@ -196,9 +203,7 @@ func wantNoRankings(t *testing.T, what string, bad []impl.Ranking) {
 		}
 	}
 	for _, id := range ids {
-		if got, ok := impl.SumOf(bad, id); ok || got != 0 {
-			t.Errorf("%s: SumOf %d is %d %v", what, id, got, ok)
-		}
+		wantNoSum(t, what, bad, id)
 	}
 	for _, k := range []int{-1, 0, 1, 2, 60, 61} {
 		wantNoBest(t, what, bad, k)

@@ -37,12 +37,22 @@ func TestPromise11SumOfAnId(t *testing.T) {
 	}
 }
 
-// What stands in no list has the sum 0, whatever number it is.
+// A number beyond 0..1000 is no id: it has no sum, where an id that stands in no list has the sum 0.
 func TestPromise11SumOfWhatIsNoId(t *testing.T) {
-	for _, id := range []int{least, -1001, -1, 1001, 1 << 32, greatest} {
+	for _, id := range []int{least, -1001, -1000, -2, -1, 1001, 1002, 1000000, 1 << 32, 1<<32 + 7, greatest} {
+		wantNoSum(t, "no lists", nil, id)
+		wantNoSum(t, "an empty list", []impl.Ranking{{}}, id)
+		wantNoSum(t, "one entry", []impl.Ranking{rank(0, 5)}, id)
+		wantNoSum(t, "three lists", threeRankings(), id)
+	}
+}
+
+func TestPromise11SumOfTheLeastAndGreatestId(t *testing.T) {
+	for _, id := range []int{0, 1, 999, 1000} {
 		wantSum(t, nil, id, 0)
 		wantSum(t, []impl.Ranking{{}}, id, 0)
-		wantSum(t, threeRankings(), id, 0)
+		wantSum(t, []impl.Ranking{rank(500, 5)}, id, 0)
+		wantSum(t, []impl.Ranking{rank(id, 5)}, id, 5)
 	}
 }
 
