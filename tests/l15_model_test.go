@@ -185,8 +185,9 @@ func (h *tale) happens(s impl.PaxosStep) bool {
 	case s.Kind == impl.PaxAsk && isAsker:
 		return h.asks(s.Asker, s.Value)
 	case s.Kind == impl.PaxForget && isAsker:
+		asked := h.askers[s.Asker].asks
 		h.askers[s.Asker].asks = false
-		return true
+		return asked
 	case s.Kind == impl.PaxTwice && isNote && len(h.notes) < 60:
 		h.notes = append(h.notes, h.notes[s.K])
 		return true
@@ -350,6 +351,13 @@ func wantStepAsTold(t *testing.T, what string, p impl.Paxos, s impl.PaxosStep) b
 		wantNoStep(t, what, p, s)
 	}
 	return done
+}
+
+func wantStepIsDone(t *testing.T, what string, p impl.Paxos, s impl.PaxosStep, want bool) {
+	t.Helper()
+	if done := wantStepAsTold(t, what, p, s); done != want {
+		t.Errorf("%s: that %v is done is told %v", what, s, done)
+	}
 }
 
 func wantChosen(t *testing.T, what string, p impl.Paxos, want ...string) {

@@ -1,6 +1,7 @@
 package tests
 
 import (
+	"fmt"
 	"slices"
 	"strings"
 	"testing"
@@ -329,13 +330,14 @@ func TestPromise15PlacesOfNoNote(t *testing.T) {
 	}
 }
 
-// One that does not ask asks no more, too.
+// One that does not ask cannot be made to ask no more: asker 0 has heard of a majority.
 func TestPromise15PaxForget(t *testing.T) {
-	for asker, round := range []int{1, 2, 1} {
+	wantNoStep(t, "has heard of a majority", busyPaxos(), forgetStep(0))
+	for asker := 1; asker < 3; asker++ {
 		want := busyPaxos()
-		want.Askers[asker] = impl.Asker{Round: round}
+		want.Askers[asker] = impl.Asker{Round: want.Askers[asker].Round}
 		wantStep(t, "forgets", busyPaxos(), forgetStep(asker), want)
-		wantStep(t, "forgets again", want, forgetStep(asker), want)
+		wantNoStep(t, "forgets again", want, forgetStep(asker))
 	}
 	for _, asker := range append(anyNumbers(), 6) {
 		if !between(asker, 0, 2) {
@@ -344,7 +346,69 @@ func TestPromise15PaxForget(t *testing.T) {
 	}
 	p := paxosWith(func(p *impl.Paxos) { p.Askers, p.Notes = p.Askers[:1], p.Notes[:5] })
 	wantNoStep(t, "one asker", p, forgetStep(1))
-	wantStep(t, "one asker", p, forgetStep(0), p)
+	wantNoStep(t, "one asker, which does not ask", p, forgetStep(0))
+	idle := paxosWith(func(p *impl.Paxos) { p.Askers[0].Heard = []int{} })
+	wantNoStep(t, "an empty list, which does not ask", idle, forgetStep(0))
+}
+
+func TestPromise15PaxForgetOfOneThatNeverAsked(t *testing.T) {
+	for voters := 1; voters <= 5; voters++ {
+		for askers := 1; askers <= 3; askers++ {
+			fresh, _ := impl.NewPaxos(voters, askers)
+			for asker := range askers {
+				wantNoStep(t, "never asked", fresh, forgetStep(asker))
+				asked := doneOf(t, fresh, askStep(asker, "x"))
+				for other := range askers {
+					wantStepIsDone(t, "one asks", asked, forgetStep(other), other == asker)
+				}
+			}
+		}
+	}
+}
+
+// What an asker has heard of does not count, but where that was a majority it asks no more.
+func TestPromise15PaxForgetByWhatWasHeardOf(t *testing.T) {
+	for voters := 1; voters <= 5; voters++ {
+		fresh, _ := impl.NewPaxos(voters, 1)
+		p := doneOf(t, fresh, askStep(0, "x"))
+		for range voters {
+			p = doneOf(t, p, takeStep(0))
+		}
+		for heard := range voters {
+			wantStepIsDone(t, fmt.Sprintf("heard of %d of %d", heard, voters), p, forgetStep(0), 2*heard <= voters)
+			p = doneOf(t, p, takeStep(0))
+		}
+		wantNoStep(t, "heard of all", p, forgetStep(0))
+	}
+	for _, heard := range setsBelow(5) {
+		p := askingWith(func(a *impl.Asker) { a.Heard = heard })
+		wantStepIsDone(t, "asks, whatever it has heard of", p, forgetStep(1), true)
+	}
+}
+
+func TestPromise15PlayPaxosOfPaxForget(t *testing.T) {
+	forget, other := forgetStep(0), forgetStep(1)
+	fresh, _ := impl.NewPaxos(1, 1)
+	wantPlayed(t, 1, 1, []impl.PaxosStep{forget}, fresh, []bool{false})
+	wantPlayed(t, 1, 1, slices.Repeat([]impl.PaxosStep{forget}, 200), fresh, make([]bool, 200))
+	want := impl.Paxos{
+		Voters: make([]impl.Voter, 2),
+		Askers: []impl.Asker{{Round: 1}, {}},
+		Notes:  []impl.Note{prepare(0, 0, 3), prepare(0, 1, 3)},
+	}
+	wantPlayed(t, 2, 2, []impl.PaxosStep{forget, askStep(0, "x"), other, forget, other, forget}, want, []bool{false, true, false, true, false, false})
+	// One that has heard of a majority asks no more, and cannot be made to; asked once more it can.
+	heard := []impl.PaxosStep{askStep(0, "x"), takeStep(0), takeStep(0), forget}
+	wantPlayed(t, 1, 1, heard, impl.Paxos{
+		Voters: []impl.Voter{{Promised: 3}},
+		Askers: []impl.Asker{{Round: 1}},
+		Notes:  []impl.Note{accept(0, 0, 3, "x")},
+	}, []bool{true, true, true, false})
+	wantPlayed(t, 1, 1, append(heard, askStep(0, "y"), forget, forget), impl.Paxos{
+		Voters: []impl.Voter{{Promised: 3}},
+		Askers: []impl.Asker{{Round: 2}},
+		Notes:  []impl.Note{accept(0, 0, 3, "x"), prepare(0, 0, 6)},
+	}, []bool{true, true, true, false, true, true, false})
 }
 
 // What one has forgotten is not heard of any more, and its next ballot is another one.
@@ -373,8 +437,7 @@ func TestPromise15FieldsThatAStepDoesNotName(t *testing.T) {
 			want, _ := oracleStep(p, askStep(asker, "x"))
 			wantStep(t, "asked", p, impl.PaxosStep{Kind: impl.PaxAsk, Asker: asker, Value: "x", K: n}, want)
 			for _, value := range []string{"", "x", "ninebytes"} {
-				want, _ = oracleStep(p, forgetStep(asker))
-				wantStep(t, "forgets", p, impl.PaxosStep{Kind: impl.PaxForget, Asker: asker, Value: value, K: n}, want)
+				wantStepIsDone(t, "forgets", p, impl.PaxosStep{Kind: impl.PaxForget, Asker: asker, Value: value, K: n}, asker > 0)
 			}
 		}
 		for k, kind := range []int{impl.PaxTake, impl.PaxLose, impl.PaxTwice} {
