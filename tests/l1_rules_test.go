@@ -209,7 +209,9 @@ func oracleParts(dec *json.Decoder, named bool) (tree, bool) {
 			return tree{}, false
 		}
 		x.kids = slices.Insert(x.kids, place, kid)
-		x.names = slices.Insert(x.names, place, name)
+		if named {
+			x.names = slices.Insert(x.names, place, name)
+		}
 	}
 	_, err := dec.Token()
 	return x, err == nil
